@@ -15,14 +15,15 @@ func Check(l []string) error {
 		return api.ErrFull
 	}
 	for _, s := range l {
-		if err := checkOne(s); err != nil {
+		if err := CheckOne(s); err != nil {
 			return err
 		}
 	}
 	return nil
 }
 
-func checkOne(s string) error {
+// CheckOne tells what keeps a text from being a line of a file.
+func CheckOne(s string) error {
 	if strings.Contains(s, lineEnd) {
 		return api.ErrShape
 	}
@@ -41,7 +42,7 @@ func Split(text string) ([]string, error) {
 	if err := Check(lines); err != nil {
 		return nil, err
 	}
-	return copied(lines), nil
+	return Copy(lines), nil
 }
 
 // cut stops one line behind MaxLines: that is enough for Check to find the
@@ -52,8 +53,9 @@ func cut(text string) []string {
 	return pieces[:len(pieces)-1]
 }
 
-// copied keeps the answer from sharing memory with the text it was cut from.
-func copied(l []string) []string {
+// Copy gives the same lines in memory of their own, so that an answer shares
+// none with what was handed in.
+func Copy(l []string) []string {
 	out := make([]string, len(l))
 	for i, s := range l {
 		out[i] = strings.Clone(s)
