@@ -380,3 +380,20 @@ func TestAnswersAreFreshMemory(t *testing.T) {
 		t.Errorf("the new lines became %q", new)
 	}
 }
+
+// P2 of DOC.md, for the layers below: Copy is the same and shares nothing.
+func TestCopy(t *testing.T) {
+	if got := Copy(nil); len(got) != 0 {
+		t.Errorf("Copy of nothing: got %q", got)
+	}
+	s := marks("-a", " b", "+c", "!d")
+	got := Copy(s[:3])
+	if !slices.Equal(got, marks("-a", " b", "+c")) {
+		t.Errorf("Copy: got %q", got)
+	}
+	s[0].Text = "changed"
+	_ = append(got, api.Mark{})
+	if got[0].Text != "a" || s[3].Text != "d" {
+		t.Errorf("Copy shares memory: %q, %q", got, s)
+	}
+}
