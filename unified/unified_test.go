@@ -487,3 +487,35 @@ func TestAnswersAreFreshMemory(t *testing.T) {
 		t.Errorf("a second answer became %v", two)
 	}
 }
+
+// Read goes as far as hunks do, and looks at nothing but their form.
+func TestRead(t *testing.T) {
+	for _, c := range []struct {
+		name    string
+		in      []string
+		want    []api.Hunk
+		n       int
+		isWhole bool
+	}{
+		{"nil", nil, nil, 0, true},
+		{"no hunk", []string{"--- a/b", "+++ b/b"}, nil, 0, true},
+		{"an empty line", []string{""}, nil, 0, true},
+		{"a head that is wrong", []string{"@@ -0,1 +1,1 @@", " a"}, nil, 0, true},
+		{"a number that is wrong", []string{"@@ -1,-1 +1,1 @@", " a"}, nil, 0, true},
+		{"a hunk", []string{"@@ -0,0 +1,1 @@", "+a"}, list(at(0, 0, "+a")), 2, true},
+		{"a hunk, and no other", []string{"@@ -0,0 +1,1 @@", "+a", "--- a/b"}, list(at(0, 0, "+a")), 2, true},
+		{"two hunks, and a wrong head", []string{"@@ -0,0 +1,1 @@", "+a", "@@ -5,1 +5,0 @@", "-b", "@@ -0,9 +0,9 @@"}, list(at(0, 0, "+a"), at(4, 5, "-b")), 4, true},
+		{"a mark that looks like a head", []string{"@@ -1,1 +0,0 @@", "--- a/b", "--- a/b"}, list(at(0, 0, "--- a/b")), 2, true},
+		{"too early an end", []string{"@@ -1,1 +1,1 @@", "-a"}, list(at(0, 0, "-a")), 2, false},
+		{"a head alone", []string{"@@ -1,1 +1,1 @@"}, list(at(0, 0)), 1, false},
+		{"a mark that cannot stand there", []string{"@@ -1,1 +1,1 @@", "-a", "-b", "+c"}, list(at(0, 0, "-a")), 2, false},
+		{"a sign that is none", []string{"@@ -0,0 +1,1 @@", "!a"}, list(at(0, 0)), 1, false},
+		{"an empty line for a mark", []string{"@@ -0,0 +1,1 @@", ""}, list(at(0, 0)), 1, false},
+		{"what Check refuses", []string{"@@ -999,0 +0,0 @@", "@@ -1,1 +9,1 @@", " " + over}, list(at(999, 0), at(0, 8, " "+over)), 3, true},
+	} {
+		l, n, isWhole := Read(c.in)
+		if !equal(l, c.want) || n != c.n || isWhole != c.isWhole {
+			t.Errorf("Read: %s: got %v, %d, %v, want %v, %d, %v", c.name, l, n, isWhole, c.want, c.n, c.isWhole)
+		}
+	}
+}
